@@ -1,0 +1,120 @@
+package equate
+
+import (
+	"math"
+	"strings"
+	"sync"
+	"testing"
+
+	"equate/api"
+)
+
+func TestNoSuchMode(t *testing.T) {
+	for _, mode := range []int{-1, -2, 4, 5, 256, 1 << 32, -1 << 32, math.MinInt, math.MaxInt} {
+		for _, text := range []string{"", "a", "\u1ead", "\xff", strings.Repeat("\u0301", 1000)} {
+			if key, e := Key(mode, text); key != "" || e != api.ErrMode {
+				t.Errorf("P1: Key(%d, %+.20q) = %+q, %d", mode, text, key, e)
+			}
+			if h, e := Hash(mode, text); h != 0 || e != api.ErrMode {
+				t.Errorf("P1: Hash(%d, %+.20q) = %d, %d", mode, text, h, e)
+			}
+		}
+	}
+}
+
+// brokenTexts begins and breaks off code points in every way that matters.
+func brokenTexts() []string {
+	edges := []byte{0x00, 'A', 0x7F, 0x80, 0x8F, 0x90, 0x9F, 0xA0, 0xBF, 0xC0, 0xC2, 0xCC, 0xDF, 0xE0, 0xED, 0xEF, 0xF0, 0xF4, 0xF5, 0xFF}
+	list := []string{""}
+	for b := range 256 {
+		list = append(list, string([]byte{byte(b)}))
+	}
+	for _, a := range edges {
+		for _, b := range edges {
+			list = append(list, string([]byte{a, b}))
+			for _, c := range edges {
+				list = append(list, string([]byte{a, b, c}))
+			}
+		}
+	}
+	return list
+}
+
+func TestNoBytesPanic(t *testing.T) {
+	ref := newReference()
+	texts := brokenTexts()
+	texts = append(texts, strings.Join(texts, ""), strings.Join(texts, "\u0301"), strings.Repeat("\xe2", 1<<16))
+	for _, text := range texts {
+		for _, mode := range modes {
+			if key, e := Key(mode, text); key != ref.key(mode, text) || e != api.OK {
+				t.Errorf("P1, P3: Key(%d, %+.40q) = %+.40q, %d", mode, text, key, e)
+			}
+			if _, e := Hash(mode, text); e != api.OK {
+				t.Errorf("P1: Hash(%d, %+.40q): %d", mode, text, e)
+			}
+		}
+	}
+}
+
+type answer struct {
+	key  string
+	hash uint64
+	errs [2]api.Errno
+}
+
+func ask(mode int, text string) answer {
+	key, e := Key(mode, text)
+	hash, f := Hash(mode, text)
+	return answer{key, hash, [2]api.Errno{e, f}}
+}
+
+type question struct {
+	mode int
+	text string
+}
+
+// questions leave marks and broken bytes at the ends of their texts, which a later call must not see.
+func questions() []question {
+	var list []question
+	for mode := -1; mode <= 4; mode++ {
+		for _, text := range []string{"", "a", "\u0301", "a\u0301\u0323", "\xe2\x82", "\xac", "Stra\u00dfe", "\u0345\uff9e", "\u0f73", "\ud7a3", "\U0001d400"} {
+			list = append(list, question{mode, text})
+		}
+	}
+	return list
+}
+
+func TestAnswersHangOnTheArgumentsAlone(t *testing.T) {
+	list := questions()
+	first := map[question]answer{}
+	for _, q := range list {
+		first[q] = ask(q.mode, q.text)
+	}
+	for _, ahead := range list {
+		for _, q := range list {
+			ask(ahead.mode, ahead.text)
+			if got := ask(q.mode, q.text); got != first[q] {
+				t.Errorf("P2: %v behind %v: %v, at first %v", q, ahead, got, first[q])
+			}
+		}
+	}
+}
+
+func TestCallsAtTheSameTime(t *testing.T) {
+	list := questions()
+	want := make([]answer, len(list))
+	for i, q := range list {
+		want[i] = ask(q.mode, q.text)
+	}
+	var group sync.WaitGroup
+	for range 8 {
+		group.Go(func() {
+			for i, q := range list {
+				if got := ask(q.mode, q.text); got != want[i] {
+					t.Errorf("P2: %v beside others: %v, alone %v", q, got, want[i])
+				}
+			}
+		})
+	}
+	group.Wait()
+}

@@ -1,0 +1,104 @@
+package stage
+
+import (
+	"math"
+	"testing"
+
+	"equate/api"
+)
+
+func released(l *Line) string {
+	var list []rune
+	for c, ok := l.Take(); ok; c, ok = l.Take() {
+		list = append(list, c)
+	}
+	return string(list)
+}
+
+func newLine(t *testing.T, mode int) *Line {
+	l, e := NewLine(mode)
+	if e != api.OK {
+		t.Fatalf("NewLine(%d): %d", mode, e)
+	}
+	return l
+}
+
+func TestNoSuchMode(t *testing.T) {
+	for _, mode := range []int{-1, 4, math.MinInt, math.MaxInt} {
+		if l, e := NewLine(mode); l != nil || e != api.ErrMode {
+			t.Errorf("NewLine(%d) = %v, %d", mode, l, e)
+		}
+	}
+}
+
+func TestBeginningsOfCodePointsWait(t *testing.T) {
+	for _, c := range []struct{ text, want, end string }{
+		{"\xc3", "", "\ufffd"},
+		{"\xe2\x82", "", "\ufffd\ufffd"},
+		{"\xf0\x9d\x90", "", "\ufffd\ufffd\ufffd"},
+		{"a\xc3", "a", "\ufffd"},
+		{"\xff", "\ufffd", ""},
+		{"\x80", "\ufffd", ""},
+		{"\xc0", "\ufffd", ""},
+		{"\xed\xa0", "\ufffd\ufffd", ""},
+		{"\xf4\x90", "\ufffd\ufffd", ""},
+		{"\xf4\x8f", "", "\ufffd\ufffd"},
+		{"\xe2\x82A", "\ufffd\ufffdA", ""},
+	} {
+		l := newLine(t, api.Same)
+		l.Put(c.text)
+		if got := released(l); got != c.want {
+			t.Errorf("%+q releases %+q, want %+q", c.text, got, c.want)
+		}
+		l.End()
+		if got := released(l); got != c.end {
+			t.Errorf("%+q releases %+q at the end, want %+q", c.text, got, c.end)
+		}
+	}
+}
+
+func TestMarksWaitForAStarter(t *testing.T) {
+	l := newLine(t, api.Same)
+	for _, step := range []struct{ text, want string }{
+		{"a", "a"}, {"\u0301", ""}, {"\u0323", ""}, {"", ""}, {"x", "\u0323\u0301x"}, {"\u00e9", "e"}, {"\u0f73", ""},
+	} {
+		l.Put(step.text)
+		if got := released(l); got != step.want {
+			t.Errorf("%+q releases %+q, want %+q", step.text, got, step.want)
+		}
+	}
+	l.End()
+	if got, want := released(l), "\u0f71\u0f72\u0301"; got != want {
+		t.Errorf("the end releases %+q, want %+q", got, want)
+	}
+}
+
+func TestMarksThatAreReleasedMayWaitAgain(t *testing.T) {
+	l := newLine(t, api.AlikeCase)
+	for _, text := range []string{"\u03b1", "\u0301", "\uff9e", "\u0345"} {
+		l.Put(text)
+	}
+	if got, want := released(l), "\u03b1"; got != want {
+		t.Errorf("released %+q, want %+q", got, want)
+	}
+	l.End()
+	if got, want := released(l), "\u3099\u0301\u03b9"; got != want {
+		t.Errorf("the end releases %+q, want %+q", got, want)
+	}
+}
+
+func TestByteByByteIsTheSame(t *testing.T) {
+	text := "Stra\u00dfe \u1eac\u0338\xe2\x82\u0345\u0301 \ud7a3\U0001d400\ufdfa\uff9e\u0f73\xf4\x90\u03b1\u0345\xf0\x9d"
+	for mode := api.Same; mode <= api.AlikeCase; mode++ {
+		whole, bytewise := newLine(t, mode), newLine(t, mode)
+		whole.Put(text)
+		whole.End()
+		for i := range len(text) {
+			bytewise.Put(text[i : i+1])
+		}
+		bytewise.End()
+		if want, got := released(whole), released(bytewise); got != want {
+			t.Errorf("mode %d: byte by byte %+q, whole %+q", mode, got, want)
+		}
+	}
+}
