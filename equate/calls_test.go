@@ -1,6 +1,7 @@
 package equate
 
 import (
+	"fmt"
 	"math"
 	"strings"
 	"sync"
@@ -17,6 +18,14 @@ func TestNoSuchMode(t *testing.T) {
 			}
 			if h, e := Hash(mode, text); h != 0 || e != api.ErrMode {
 				t.Errorf("P1: Hash(%d, %+.20q) = %d, %d", mode, text, h, e)
+			}
+			if cuts, e := Cuts(mode, text+"ab"); len(cuts) != 0 || e != api.ErrMode {
+				t.Errorf("P1: Cuts(%d, %+.20q) = %v, %d", mode, text+"ab", cuts, e)
+			}
+			for _, other := range []string{"", "a", "b"} {
+				if n, e := Compare(mode, text, other); n != 0 || e != api.ErrMode {
+					t.Errorf("P1: Compare(%d, %+.20q, %q) = %d, %d", mode, text, other, n, e)
+				}
 			}
 		}
 	}
@@ -44,13 +53,20 @@ func TestNoBytesPanic(t *testing.T) {
 	ref := newReference()
 	texts := brokenTexts()
 	texts = append(texts, strings.Join(texts, ""), strings.Join(texts, "\u0301"), strings.Repeat("\xe2", 1<<16))
-	for _, text := range texts {
+	for i, text := range texts {
+		other := texts[(i+1)%len(texts)]
 		for _, mode := range modes {
 			if key, e := Key(mode, text); key != ref.key(mode, text) || e != api.OK {
 				t.Errorf("P1, P3: Key(%d, %+.40q) = %+.40q, %d", mode, text, key, e)
 			}
 			if _, e := Hash(mode, text); e != api.OK {
 				t.Errorf("P1: Hash(%d, %+.40q): %d", mode, text, e)
+			}
+			if _, e := Cuts(mode, text); e != api.OK {
+				t.Errorf("P1: Cuts(%d, %+.40q): %d", mode, text, e)
+			}
+			if n, e := Compare(mode, text, other); n != ref.compare(mode, text, other) || e != api.OK {
+				t.Errorf("P1, P5: Compare(%d, %+.40q, %+.40q) = %d, %d", mode, text, other, n, e)
 			}
 		}
 	}
@@ -59,13 +75,22 @@ func TestNoBytesPanic(t *testing.T) {
 type answer struct {
 	key  string
 	hash uint64
-	errs [2]api.Errno
+	cuts string
+	sign int
+	errs [4]api.Errno
 }
 
+// ask writes into the list of cuts and its spare room, which no other answer may share.
 func ask(mode int, text string) answer {
 	key, e := Key(mode, text)
 	hash, f := Hash(mode, text)
-	return answer{key, hash, [2]api.Errno{e, f}}
+	cuts, g := Cuts(mode, text)
+	sign, h := Compare(mode, text, "a\u0301")
+	told := fmt.Sprint(cuts)
+	for i := range cuts[:cap(cuts)] {
+		cuts[:cap(cuts)][i] = -7
+	}
+	return answer{key, hash, told, sign, [4]api.Errno{e, f, g, h}}
 }
 
 type question struct {
@@ -77,7 +102,7 @@ type question struct {
 func questions() []question {
 	var list []question
 	for mode := -1; mode <= 4; mode++ {
-		for _, text := range []string{"", "a", "\u0301", "a\u0301\u0323", "\xe2\x82", "\xac", "Stra\u00dfe", "\u0345\uff9e", "\u0f73", "\ud7a3", "\U0001d400"} {
+		for _, text := range []string{"", "a", "\u0301", "a\u0301\u0323", "b\u0301c", "\xe2\x82", "\xac", "Stra\u00dfe", "\u0345\uff9e", "\u0f73", "\ud7a3", "\U0001d400"} {
 			list = append(list, question{mode, text})
 		}
 	}

@@ -2,32 +2,60 @@
 package equate
 
 import (
+	"cmp"
 	"unicode/utf8"
 
 	"equate/api"
+	"equate/source"
 	"equate/stage"
 )
 
 // Key tells the form of a text in a mode (P3).
 func Key(mode int, s string) (string, api.Errno) {
-	line, e := stage.NewLine(mode)
+	stages, e := stage.Of(mode)
 	if e != api.OK {
 		return "", e
 	}
-	line.Put(s)
-	line.End()
+	form := stage.Begin(stages, source.NewWhole(s))
 	var key []byte
-	for c, ok := line.Take(); ok; c, ok = line.Take() {
+	for c := form.Fetch(); c != stage.End; c = form.Fetch() {
 		key = utf8.AppendRune(key, c)
 	}
 	return string(key), api.OK
 }
 
 // Cuts tells where a text may be cut in a mode (P4).
-func Cuts(mode int, s string) ([]int, api.Errno) { return nil, api.OK }
+func Cuts(mode int, s string) ([]int, api.Errno) {
+	stages, e := stage.Of(mode)
+	if e != api.OK {
+		return nil, e
+	}
+	var cuts []int
+	for place, c := range s {
+		if place > 0 && stages.MayCutAt(c) {
+			cuts = append(cuts, place)
+		}
+	}
+	return cuts, api.OK
+}
 
 // Compare compares two texts in a mode (P5).
-func Compare(mode int, a string, b string) (int, api.Errno) { return 0, api.OK }
+func Compare(mode int, a string, b string) (int, api.Errno) {
+	stages, e := stage.Of(mode)
+	if e != api.OK {
+		return 0, e
+	}
+	return order(stage.Begin(stages, source.NewWhole(a)), stage.Begin(stages, source.NewWhole(b))), api.OK
+}
+
+func order(a, b *stage.Reader) int {
+	for {
+		c, d := a.Fetch(), b.Fetch()
+		if c != d || c == stage.End {
+			return cmp.Compare(c, d)
+		}
+	}
+}
 
 // Hash tells the hash of a text in a mode (P6).
 func Hash(mode int, s string) (uint64, api.Errno) {

@@ -175,12 +175,13 @@ func pieces(ref reference) []string {
 	return list
 }
 
-func TestKeyOfMixedTexts(t *testing.T) {
-	ref := newReference()
+// mixedTexts are n texts, the same each time; every other piece of them is a mark or something that becomes one.
+func mixedTexts(ref reference, n int) []string {
 	list := pieces(ref)
 	marks := []string{"\u0301", "\u0300", "\u0323", "\u0345", "\u0338", "\u0f73", "\uff9e", "\u3099", "\u0344"}
-	same := rand.New(rand.NewSource(1)) // the same texts each time
-	for range 4000 {
+	same := rand.New(rand.NewSource(1))
+	texts := make([]string, n)
+	for i := range texts {
 		var text strings.Builder
 		for range 1 + same.Intn(12) {
 			if same.Intn(2) == 0 {
@@ -189,6 +190,14 @@ func TestKeyOfMixedTexts(t *testing.T) {
 				text.WriteString(marks[same.Intn(len(marks))])
 			}
 		}
-		checkReference(t, ref, text.String())
+		texts[i] = text.String()
+	}
+	return texts
+}
+
+func TestKeyOfMixedTexts(t *testing.T) {
+	ref := newReference()
+	for _, text := range mixedTexts(ref, 4000) {
+		checkReference(t, ref, text)
 	}
 }

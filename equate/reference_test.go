@@ -2,6 +2,7 @@ package equate
 
 import (
 	"fmt"
+	"slices"
 	"sort"
 	"strings"
 
@@ -100,18 +101,72 @@ func (r reference) form(list []rune, by map[rune][]rune) []rune {
 	return list
 }
 
-func (r reference) key(mode int, s string) string {
-	list := []rune(s)
+// forms is what comes out of each stage of a mode.
+func (r reference) forms(mode int, list []rune) [][]rune {
 	switch mode {
 	case api.Same:
-		list = r.form(list, r.canon)
+		return [][]rune{r.form(list, r.canon)}
 	case api.Alike:
-		list = r.form(list, r.compat)
+		return [][]rune{r.form(list, r.compat)}
 	case api.SameCase:
-		list = r.form(replaced(r.form(list, r.canon), r.folding), r.canon)
-	case api.AlikeCase:
-		list = r.form(replaced(r.form(list, r.canon), r.folding), r.compat)
-		list = r.form(replaced(list, r.folding), r.compat)
+		first := r.form(list, r.canon)
+		return [][]rune{first, r.form(replaced(first, r.folding), r.canon)}
 	}
-	return string(list)
+	first := r.form(list, r.canon)
+	second := r.form(replaced(first, r.folding), r.compat)
+	return [][]rune{first, second, r.form(replaced(second, r.folding), r.compat)}
+}
+
+func (r reference) lastForm(mode int, s string) []rune {
+	list, _ := codePoints(s)
+	forms := r.forms(mode, list)
+	return forms[len(forms)-1]
+}
+
+func (r reference) key(mode int, s string) string { return string(r.lastForm(mode, s)) }
+
+func (r reference) cuts(mode int, s string) []int {
+	var cuts []int
+	list, places := codePoints(s)
+	for i, c := range list {
+		starts := i > 0
+		for _, form := range r.forms(mode, []rune{c}) {
+			starts = starts && r.class[form[0]] == 0
+		}
+		if starts {
+			cuts = append(cuts, places[i])
+		}
+	}
+	return cuts
+}
+
+func (r reference) compare(mode int, a, b string) int {
+	return slices.Compare(r.lastForm(mode, a), r.lastForm(mode, b))
+}
+
+// codePoints reads a text as the document says it, and tells the place of each code point.
+func codePoints(s string) (list []rune, places []int) {
+	for at := 0; at < len(s); {
+		c, size := rune(0xFFFD), 1
+		for n := 1; n <= 4 && at+n <= len(s); n++ {
+			if d, ok := oneCodePoint(s[at : at+n]); ok {
+				c, size = d, n
+			}
+		}
+		list, places = append(list, c), append(places, at)
+		at += size
+	}
+	return list, places
+}
+
+// oneCodePoint puts the bits together as if all were well, and then asks whether they would be written so.
+func oneCodePoint(s string) (rune, bool) {
+	c := rune(s[0])
+	if len(s) > 1 {
+		c &= 0x7F >> len(s)
+	}
+	for _, b := range []byte(s[1:]) {
+		c = c<<6 | rune(b&0x3F)
+	}
+	return c, string(c) == s
 }

@@ -1,7 +1,6 @@
 package stage
 
 import (
-	"math"
 	"testing"
 
 	"equate/api"
@@ -15,21 +14,7 @@ func released(l *Line) string {
 	return string(list)
 }
 
-func newLine(t *testing.T, mode int) *Line {
-	l, e := NewLine(mode)
-	if e != api.OK {
-		t.Fatalf("NewLine(%d): %d", mode, e)
-	}
-	return l
-}
-
-func TestNoSuchMode(t *testing.T) {
-	for _, mode := range []int{-1, 4, math.MinInt, math.MaxInt} {
-		if l, e := NewLine(mode); l != nil || e != api.ErrMode {
-			t.Errorf("NewLine(%d) = %v, %d", mode, l, e)
-		}
-	}
-}
+func newLine(t *testing.T, mode int) *Line { return NewLine(stagesOf(t, mode)) }
 
 func TestBeginningsOfCodePointsWait(t *testing.T) {
 	for _, c := range []struct{ text, want, end string }{
@@ -88,13 +73,12 @@ func TestMarksThatAreReleasedMayWaitAgain(t *testing.T) {
 }
 
 func TestByteByByteIsTheSame(t *testing.T) {
-	text := "Stra\u00dfe \u1eac\u0338\xe2\x82\u0345\u0301 \ud7a3\U0001d400\ufdfa\uff9e\u0f73\xf4\x90\u03b1\u0345\xf0\x9d"
 	for mode := api.Same; mode <= api.AlikeCase; mode++ {
 		whole, bytewise := newLine(t, mode), newLine(t, mode)
-		whole.Put(text)
+		whole.Put(mixed)
 		whole.End()
-		for i := range len(text) {
-			bytewise.Put(text[i : i+1])
+		for i := range len(mixed) {
+			bytewise.Put(mixed[i : i+1])
 		}
 		bytewise.End()
 		if want, got := released(whole), released(bytewise); got != want {

@@ -64,5 +64,16 @@ func (s *Stage) Release() {
 	s.marks.Drop(len(marks))
 }
 
+// first is the code point that what comes out begins with, if one goes in alone.
+func (s *Stage) first(c rune) rune {
+	if folding := s.foldingOf(c); len(folding) > 0 {
+		c = folding[0]
+	}
+	for parts := s.Parts(c, s.compatible); len(parts) > 0; parts = s.Parts(c, s.compatible) {
+		c = parts[0]
+	}
+	return c
+}
+
 // Take removes the first code point that was released; false if there is none.
 func (s *Stage) Take() (rune, bool) { return s.released.Take() }

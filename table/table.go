@@ -32,8 +32,11 @@ type entry struct {
 type Table map[rune]entry
 
 // New makes the table out of api.Data.
-func New() Table {
-	lines := strings.Split(api.Data, "\n")
+func New() Table { return Parse(api.Data) }
+
+// Parse makes a table out of lines like those of api.Data.
+func Parse(text string) Table {
+	lines := strings.Split(text, "\n")
 	t := make(Table, len(lines))
 	for _, line := range lines {
 		fields := strings.Fields(line)
