@@ -59,17 +59,39 @@ func order(a, b *stage.Reader) int {
 
 // Hash tells the hash of a text in a mode (P6).
 func Hash(mode int, s string) (uint64, api.Errno) {
-	key, e := Key(mode, s)
+	stages, e := stage.Of(mode)
 	if e != api.OK {
 		return 0, e
 	}
-	return hashOf(key), api.OK
+	return hashOf(stage.Begin(stages, source.NewWhole(s))), api.OK
 }
 
 // Stream compares two sources in a mode, reading no more than it must (P7, P8).
 func Stream(mode int, a []api.Chunk, b []api.Chunk) (api.Outcome, api.Errno) {
-	return api.Outcome{}, api.OK
+	stages, e := stage.Of(mode)
+	if e != api.OK {
+		return api.Outcome{}, e
+	}
+	chunksA, chunksB := source.NewChunks(a), source.NewChunks(b)
+	formA, formB := stage.Begin(stages, chunksA), stage.Begin(stages, chunksB)
+	var o api.Outcome
+	e = tillGivenUp(func() {
+		o.Sign = order(formA, formB)
+		o.HeldA, o.HeldB = formA.Held(), formB.Held()
+	})
+	// The reads alone are told even beside an error.
+	o.ReadA, o.ReadB = chunksA.Reads(), chunksB.Reads()
+	return o, e
 }
 
 // Digest tells the hash of a source in a mode (P9).
-func Digest(mode int, a []api.Chunk) (uint64, api.Errno) { return 0, api.OK }
+func Digest(mode int, a []api.Chunk) (uint64, api.Errno) {
+	stages, e := stage.Of(mode)
+	if e != api.OK {
+		return 0, e
+	}
+	form := stage.Begin(stages, source.NewChunks(a))
+	var hash uint64
+	e = tillGivenUp(func() { hash = hashOf(form) })
+	return hash, e
+}

@@ -1,6 +1,7 @@
 package equate
 
 import (
+	"math/rand"
 	"strings"
 	"testing"
 
@@ -123,6 +124,67 @@ func TestADecompositionStandsForItsCodePoint(t *testing.T) {
 		for _, mode := range modes {
 			if n, e := Compare(mode, one, other); n != 0 || e != api.OK {
 				t.Errorf("P10: Compare(%d, %+q, %+q) = %d, %d", mode, one, other, n, e)
+			}
+		}
+	}
+}
+
+func checkCutAnyhow(t *testing.T, mode int, a, b string, by *rand.Rand) {
+	t.Helper()
+	sign, _ := Compare(mode, a, b)
+	for _, lists := range [][2][]api.Chunk{{chunks(a), chunks(b)}, {bytewise(a), bytewise(b)}, {anyhow(a, by), anyhow(b, by)}} {
+		if got, e := Stream(mode, lists[0], lists[1]); got.Sign != sign || e != api.OK {
+			t.Errorf("P10: Stream(%d, %s, %s): %d, %d; Compare tells %d", mode, told(lists[0]), told(lists[1]), got.Sign, e, sign)
+		}
+	}
+}
+
+func TestHoweverATextIsCutTheSignIsTheSame(t *testing.T) {
+	same := rand.New(rand.NewSource(5))
+	for _, mode := range modes {
+		for _, a := range sames {
+			for _, b := range sames {
+				checkCutAnyhow(t, mode, a, b, same)
+			}
+		}
+	}
+	texts := mixedTexts(newReference(), 500)
+	for i, a := range texts {
+		for _, mode := range modes {
+			checkCutAnyhow(t, mode, a, keyOf(t, mode, a), same)
+			checkCutAnyhow(t, mode, a, a+texts[(i+1)%len(texts)], same)
+		}
+	}
+}
+
+// othersBehind are lists that begin as one does, and of which the rest, if a part of it was not read, is another.
+func othersBehind(list []api.Chunk, reads int) [][]api.Chunk {
+	if reads == len(list) {
+		return [][]api.Chunk{list}
+	}
+	var lists [][]api.Chunk
+	for _, rest := range [][]api.Chunk{nil, {fails}, {above}, chunks("\u0301\u0301\u0301"), chunks("\x80"), empty(64), chunks("z", fails)} {
+		lists = append(lists, chunks(list[:reads], rest))
+	}
+	return lists
+}
+
+func TestWhatWasNotReadDoesNotMatter(t *testing.T) {
+	texts := mixedTexts(newReference(), 600)
+	same := rand.New(rand.NewSource(6))
+	for i, text := range texts {
+		cut := same.Intn(len(text) + 1)
+		a, b := anyhow(text, same), anyhow(text[:cut]+texts[(i+1)%len(texts)], same)
+		if i%3 == 0 {
+			a = spoiled(a, same)
+		}
+		mode := modes[i%4]
+		want, wantE := Stream(mode, a, b)
+		for _, one := range othersBehind(a, want.ReadA) {
+			for _, other := range othersBehind(b, want.ReadB) {
+				if got, e := Stream(mode, one, other); got != want || e != wantE {
+					t.Errorf("P10: Stream(%d, %s, %s) = %+v, %d, with the rest another %+v, %d", mode, told(a), told(b), want, wantE, got, e)
+				}
 			}
 		}
 	}

@@ -85,10 +85,14 @@ func replaced(list []rune, by map[rune][]rune) []rune {
 	return out
 }
 
-func (r reference) form(list []rune, by map[rune][]rune) []rune {
+func takenApart(list []rune, by map[rune][]rune) []rune {
 	for range 4 { // no code point of the table is taken apart in more steps
 		list = replaced(list, by)
 	}
+	return list
+}
+
+func (r reference) ordered(list []rune) []rune {
 	for from := 0; from < len(list); from++ {
 		to := from
 		for to < len(list) && r.class[list[to]] != 0 {
@@ -101,20 +105,30 @@ func (r reference) form(list []rune, by map[rune][]rune) []rune {
 	return list
 }
 
-// forms is what comes out of each stage of a mode.
-func (r reference) forms(mode int, list []rune) [][]rune {
+// kinds tells by which decompositions each stage of a mode takes apart.
+func (r reference) kinds(mode int) []map[rune][]rune {
 	switch mode {
 	case api.Same:
-		return [][]rune{r.form(list, r.canon)}
+		return []map[rune][]rune{r.canon}
 	case api.Alike:
-		return [][]rune{r.form(list, r.compat)}
+		return []map[rune][]rune{r.compat}
 	case api.SameCase:
-		first := r.form(list, r.canon)
-		return [][]rune{first, r.form(replaced(first, r.folding), r.canon)}
+		return []map[rune][]rune{r.canon, r.canon}
 	}
-	first := r.form(list, r.canon)
-	second := r.form(replaced(first, r.folding), r.compat)
-	return [][]rune{first, second, r.form(replaced(second, r.folding), r.compat)}
+	return []map[rune][]rune{r.canon, r.compat, r.compat}
+}
+
+// forms is what comes out of each stage of a mode.
+func (r reference) forms(mode int, list []rune) [][]rune {
+	var forms [][]rune
+	for i, by := range r.kinds(mode) {
+		if i > 0 {
+			list = replaced(list, r.folding)
+		}
+		list = r.ordered(takenApart(list, by))
+		forms = append(forms, slices.Clone(list))
+	}
+	return forms
 }
 
 func (r reference) lastForm(mode int, s string) []rune {

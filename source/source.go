@@ -3,8 +3,6 @@ package source
 
 import (
 	"unicode/utf8"
-
-	"equate/api"
 )
 
 // Source is what a text comes from. There are two kinds, Whole and Chunks; each gives what it has in a way of its own.
@@ -27,23 +25,4 @@ func (w *Whole) Next() rune {
 	c, size := utf8.DecodeRuneInString(w.rest)
 	w.rest = w.rest[size:]
 	return c
-}
-
-// Chunks is a text that comes chunk by chunk.
-type Chunks struct{ rest []api.Chunk }
-
-// NewChunks is a list of chunks of which none was read yet.
-func NewChunks(list []api.Chunk) *Chunks { return &Chunks{rest: list} }
-
-// Ended tells that nothing is left to read.
-func (c *Chunks) Ended() bool { return len(c.rest) == 0 }
-
-// Read takes the next chunk and gives its bytes; there are none behind the last.
-func (c *Chunks) Read() string {
-	if c.Ended() {
-		return ""
-	}
-	next := c.rest[0]
-	c.rest = c.rest[1:]
-	return next.Text
 }

@@ -3,8 +3,6 @@ package source
 import (
 	"slices"
 	"testing"
-
-	"equate/api"
 )
 
 func TestWholeGivesCodePoints(t *testing.T) {
@@ -30,46 +28,10 @@ func TestWholeGivesCodePoints(t *testing.T) {
 	}
 }
 
-func TestChunksGiveTheirTexts(t *testing.T) {
-	for _, texts := range [][]string{nil, {""}, {"a"}, {"a", "", "\xc3", "\xa9"}, {"", ""}} {
-		var list []api.Chunk
-		for _, text := range texts {
-			list = append(list, api.Chunk{Kind: api.Some, Text: text})
-		}
-		var got []string
-		c := NewChunks(list)
-		for !c.Ended() {
-			got = append(got, c.Read())
-		}
-		if !slices.Equal(got, texts) {
-			t.Errorf("%q gives %q", texts, got)
-		}
-	}
-}
-
-func TestBehindTheEndThereIsNothing(t *testing.T) {
-	c := NewChunks([]api.Chunk{{Text: "a"}})
-	c.Read()
-	if got := c.Read(); got != "" || !c.Ended() {
-		t.Errorf("behind the end: %q, ended %t", got, c.Ended())
-	}
+func TestBehindTheEndOfAWhole(t *testing.T) {
 	w := NewWhole("a")
 	w.Next()
 	if w.Next(); !w.Ended() {
 		t.Error("behind the end a text goes on")
-	}
-}
-
-// A list that is handed in must stay as it is, and what stands behind it must not be read.
-func TestChunksKeepToTheirList(t *testing.T) {
-	all := []api.Chunk{{Text: "a"}, {Text: "b"}, {Text: "c"}}
-	before := slices.Clone(all)
-	c := NewChunks(all[:2])
-	var got []string
-	for !c.Ended() {
-		got = append(got, c.Read())
-	}
-	if !slices.Equal(got, []string{"a", "b"}) || !slices.Equal(all, before) {
-		t.Errorf("read %q, left %v", got, all)
 	}
 }

@@ -44,6 +44,15 @@ func (l *Line) End() {
 // Take removes the next code point of the form; false if none is released.
 func (l *Line) Take() (rune, bool) { return l.stages[len(l.stages)-1].Take() }
 
+// Held is the most marks that waited in one of the stages at one time.
+func (l *Line) Held() int {
+	most := 0
+	for i := range l.stages {
+		most = max(most, l.stages[i].Held())
+	}
+	return most
+}
+
 func (l *Line) enterBytes() {
 	c, size := utf8.DecodeRune(l.bytes.Waiting())
 	l.bytes.Drop(size)

@@ -86,3 +86,33 @@ func TestByteByByteIsTheSame(t *testing.T) {
 		}
 	}
 }
+
+func TestHeldIsTheMostThatWaited(t *testing.T) {
+	for _, c := range []struct {
+		text string
+		held [4]int
+		end  [4]int
+	}{
+		{"", [4]int{}, [4]int{}},
+		{"a", [4]int{}, [4]int{}},
+		{"a\u0301", [4]int{1, 1, 1, 1}, [4]int{1, 1, 1, 1}},
+		{"a\u0301\u0300b\u0323", [4]int{2, 2, 2, 2}, [4]int{2, 2, 2, 2}},
+		{"a\u0301b\u0301\u0300\u0344", [4]int{4, 4, 4, 4}, [4]int{4, 4, 4, 4}},
+		{"\u0345\u0345\u0345", [4]int{3, 3, 3, 3}, [4]int{3, 3, 3, 3}},
+		{"\uff9e\uff9e", [4]int{0, 2, 0, 2}, [4]int{0, 2, 0, 2}}, // in AlikeCase the second stage's
+		{"\uff9e\u0338\u0301", [4]int{2, 3, 2, 2}, [4]int{2, 3, 2, 3}},
+		{"a\u0301\xc3", [4]int{1, 1, 1, 1}, [4]int{1, 1, 1, 1}},
+	} {
+		for mode := api.Same; mode <= api.AlikeCase; mode++ {
+			l := newLine(t, mode)
+			l.Put(c.text)
+			if got, want := l.Held(), c.held[mode]; got != want {
+				t.Errorf("mode %d, %+q: Held %d, want %d", mode, c.text, got, want)
+			}
+			l.End()
+			if got, want := l.Held(), c.end[mode]; got != want {
+				t.Errorf("mode %d, %+q: Held %d behind the end, want %d", mode, c.text, got, want)
+			}
+		}
+	}
+}

@@ -26,7 +26,7 @@ func Begin(stages Stages, from source.Source) *Reader {
 	return r
 }
 
-// Fetch gives the next code point of the form, or End.
+// Fetch gives the next code point of the form, or End. A list of chunks may give up there: see source.GaveUp.
 func (r *Reader) Fetch() rune {
 	for {
 		if c, ok := r.line.Take(); ok {
@@ -38,6 +38,9 @@ func (r *Reader) Fetch() rune {
 		r.readOn()
 	}
 }
+
+// Held is the most marks that waited in one of the stages at one time.
+func (r *Reader) Held() int { return r.line.Held() }
 
 func (r *Reader) readOn() {
 	if r.source.Ended() {

@@ -94,3 +94,22 @@ func TestTheEndIsMetWhenItWouldBeRead(t *testing.T) {
 		}
 	}
 }
+
+// What gives up does so through the stages, and leaves what was fetched ahead of it as it was.
+func TestASourceGivesUpThroughTheStages(t *testing.T) {
+	for mode := api.Same; mode <= api.AlikeCase; mode++ {
+		chunks := source.NewChunks(append(chunksOf("ab\u0301"), api.Chunk{Kind: api.Fails}))
+		r := Begin(stagesOf(t, mode), chunks)
+		if a, b := r.Fetch(), r.Fetch(); a != 'a' || b != 'b' || chunks.Reads() != 1 {
+			t.Errorf("mode %d: fetched %U, %U behind %d reads", mode, a, b, chunks.Reads())
+		}
+		func() {
+			defer func() {
+				if got := recover(); got != (source.GaveUp{Why: api.ErrSource}) || chunks.Reads() != 2 || r.Held() != 1 {
+					t.Errorf("mode %d: panic with %v, %d reads, Held %d", mode, got, chunks.Reads(), r.Held())
+				}
+			}()
+			r.Fetch()
+		}()
+	}
+}

@@ -15,6 +15,7 @@ type Stage struct {
 	compatible bool
 	folds      bool
 	marks      queue.Queue[rune]
+	held       int
 	released   queue.Queue[rune]
 }
 
@@ -49,6 +50,7 @@ func (s *Stage) takeApart(c rune) {
 func (s *Stage) place(c rune) {
 	if s.Class(c) != 0 {
 		s.marks.Put(c)
+		s.held = max(s.held, s.marks.Len())
 		return
 	}
 	s.Release()
@@ -77,3 +79,6 @@ func (s *Stage) first(c rune) rune {
 
 // Take removes the first code point that was released; false if there is none.
 func (s *Stage) Take() (rune, bool) { return s.released.Take() }
+
+// Held is the most marks that waited at one time.
+func (s *Stage) Held() int { return s.held }

@@ -121,3 +121,24 @@ func TestTheFormWithAnotherTable(t *testing.T) {
 		}
 	}
 }
+
+// Marks that wait in a stage alone because of its own folding are held there.
+func TestHeldWithAnotherTable(t *testing.T) {
+	for _, c := range []struct {
+		text string
+		held [4]int
+	}{
+		{"\ue002\ue002", [4]int{0, 0, 2, 2}},
+		{"\ue003\ue003\ue003", [4]int{0, 0, 0, 3}}, // the third stage's
+		{"\ue003\ue003\u0301", [4]int{1, 1, 1, 2}},
+		{"\ue003\ue002\u0301a", [4]int{1, 1, 2, 3}},
+	} {
+		for mode, want := range c.held {
+			l := NewLine(otherStages(t, mode))
+			l.Put(c.text)
+			if got := l.Held(); got != want {
+				t.Errorf("mode %d, %+q: Held %d, want %d", mode, c.text, got, want)
+			}
+		}
+	}
+}
